@@ -69,7 +69,7 @@ func wantShelf(s []impl.Work) bool {
 
 func wantWorkIn(s []impl.Work, name string) (impl.Work, bool) {
 	at := slices.IndexFunc(s, func(w impl.Work) bool { return w.Name == name })
-	if !wantShelf(s) || at < 0 {
+	if at < 0 {
 		return impl.Work{}, false
 	}
 	return s[at], true
@@ -161,10 +161,17 @@ func checkShelfOk(t *testing.T, s []impl.Work, want bool) {
 	}
 }
 
+// checkWorkIn takes any one of that Name: of a list that has several, the
+// document does not say which.
 func checkWorkIn(t *testing.T, s []impl.Work, name string) {
 	t.Helper()
+	got, is := impl.WorkIn(s, name)
 	want, wantIs := wantWorkIn(s, name)
-	if got, is := impl.WorkIn(s, name); !sameWork(got, want) || is != wantIs {
+	right := !wantIs && sameWork(got, impl.Work{})
+	for _, w := range s {
+		right = right || w.Name == name && sameWork(got, w)
+	}
+	if is != wantIs || !right {
 		t.Fatalf("WorkIn(%v, %q) is %v, %v, not %v, %v", s, name, got, is, want, wantIs)
 	}
 }
@@ -342,16 +349,75 @@ func TestWorkInAsTold(t *testing.T) {
 	}
 }
 
-func TestWorkInOfWhatIsNoShelf(t *testing.T) {
-	for _, s := range wrongShelves() {
-		names := []string{"elm", "oak", "yew", ""}
-		for _, w := range s {
-			names = append(names, w.Name)
+func TestWorkInOfNamesThatDoNotRise(t *testing.T) {
+	copies := []impl.Copy{aCopy(edition(0, 0, 0), ""), aCopy(edition(0, 2, 0), "x1"), hiddenCopy(edition(1, 0, 0), "abcdefghijkl"), aCopy(edition(1, 2, 0), "leaf")}
+	ab, elm := named("a-b", 0, copies...), named("elm", 1)
+	for _, s := range [][]impl.Work{{elm, ab}, {ab, named("oak", 0), elm}, {named("yew", 3), elm, named("oak", 2), ab}} {
+		checkShelfOk(t, s, false)
+		for _, want := range []impl.Work{ab, elm} {
+			if got, is := impl.WorkIn(s, want.Name); !is || !sameWork(got, want) {
+				t.Errorf("WorkIn(%v, %q) is %v, %v", s, want.Name, got, is)
+			}
 		}
-		for _, name := range names[:min(len(names), 12)] {
+		for _, name := range []string{"", "fir", "a", "a_b", "A-B", "zz"} {
 			if got, is := impl.WorkIn(s, name); is || !sameWork(got, impl.Work{}) {
 				t.Errorf("WorkIn(%v, %q) is %v, %v", s, name, got, is)
 			}
+		}
+	}
+}
+
+func TestWorkInOfMoreThanMaxWorks(t *testing.T) {
+	for _, n := range []int{6, 7, 12} {
+		s := shelfOfLength(n)
+		checkShelfOk(t, s, false)
+		for i, want := range s {
+			if got, is := impl.WorkIn(s, want.Name); !is || !sameWork(got, want) {
+				t.Errorf("WorkIn of %d Works, of the one at %d, is %v, %v", n, i, got, is)
+			}
+		}
+		for _, name := range []string{"", "a", "c", "z", "bb"} {
+			if got, is := impl.WorkIn(s, name); is || !sameWork(got, impl.Work{}) {
+				t.Errorf("WorkIn of %d Works, of %q, is %v, %v", n, name, got, is)
+			}
+		}
+	}
+}
+
+// A Work that is not right is as it was in every field, and hides no other.
+func TestWorkInOfWorksThatAreNotRight(t *testing.T) {
+	for _, wrong := range wrongWorks() {
+		for at := range 3 {
+			s := []impl.Work{named("elm", 1), named("fir", 2, aCopy(edition(1, 0, 0), "leaf")), named("yew", 3)}
+			s[at] = wrong
+			checkShelfOk(t, s, false)
+			for _, want := range s {
+				if got, is := impl.WorkIn(s, want.Name); !is || !sameWork(got, want) {
+					t.Errorf("WorkIn(%v, %q) is %v, %v", s, want.Name, got, is)
+				}
+			}
+			if got, is := impl.WorkIn(s, "ash"); is || !sameWork(got, impl.Work{}) {
+				t.Errorf("WorkIn(%v, ash) is %v, %v", s, got, is)
+			}
+		}
+	}
+	// The zero Work is one of the empty Name, where it is there.
+	if got, is := impl.WorkIn(make([]impl.Work, 1), ""); !is || !sameWork(got, impl.Work{}) {
+		t.Errorf("WorkIn of the zero Work is %v, %v", got, is)
+	}
+	if got, is := impl.WorkIn(nil, ""); is || !sameWork(got, impl.Work{}) {
+		t.Errorf("WorkIn of nothing is %v, %v", got, is)
+	}
+}
+
+func TestWorkInOfWhatIsNoShelf(t *testing.T) {
+	for _, s := range wrongShelves() {
+		names := []string{"elm", "oak", "yew", "fir", "ash", ""}
+		for _, w := range s {
+			names = append(names, w.Name)
+		}
+		for _, name := range names[:min(len(names), 18)] {
+			checkWorkIn(t, s, name)
 		}
 	}
 }
@@ -779,9 +845,12 @@ func memoryLines() []string {
 
 func memoryShelves() [][]impl.Work {
 	full := append(threeWorks(), named("yewa", 1, fourCopies().Copies...), named("yewb", 2))
-	wrong := threeWorks()
+	wrong, long := threeWorks(), threeWorks()
 	wrong[2].Owner = 4
-	return [][]impl.Work{threeWorks(), full, {named("oak", 2)}, nil, wrong}
+	long[1].Copies = append(workOfLength(9).Copies, aCopy(edition(100, -1, 0), "Not a page"))
+	falling := []impl.Work{named("yew", 1), fourCopies(), named("elm", 0)}
+	many := append(shelfOfLength(6), fourCopies())
+	return [][]impl.Work{threeWorks(), full, {named("oak", 2)}, nil, wrong, long, falling, many}
 }
 
 // viewedDeed is d with its texts in bytes that the test can change.
